@@ -1,8 +1,9 @@
 package term
 
-import "swingle/api"
-
-const nameMost = 8 // letters of a name
+import (
+	"swingle/api"
+	"swingle/letters"
+)
 
 // checkAll returns ErrArg if a signature, or one of some expressions, is not formed.
 func checkAll(s api.TermSig, list ...api.Term) api.Errno {
@@ -42,26 +43,13 @@ func sigFormed(s api.TermSig) bool {
 	}
 	taken := map[string]bool{}
 	isFormed := func(n api.TermName) bool {
-		if taken[n.Name] || !isName(n.Name) {
+		if taken[n.Name] || !letters.IsName(n.Name) {
 			return false
 		}
 		taken[n.Name] = true
 		return 0 <= n.Args && n.Args <= api.TermArgs
 	}
 	return all(s.Cons, isFormed) && all(s.Funs, isFormed)
-}
-
-// isName counts bytes: letters are one byte each, and anything else is refused anyway.
-func isName(name string) bool {
-	if len(name) < 1 || len(name) > nameMost {
-		return false
-	}
-	for _, r := range name {
-		if !('a' <= r && r <= 'z' || 'A' <= r && r <= 'Z') {
-			return false
-		}
-	}
-	return true
 }
 
 // formed stops at the first node that is not as it must be, before it goes
