@@ -3,6 +3,7 @@ package formed
 import (
 	"swingle/api"
 	"swingle/term"
+	"swingle/tree"
 )
 
 // ruleFormed returns whether a rule is formed, for a signature that is.
@@ -39,7 +40,7 @@ func (b *binder) binds(v int) bool {
 }
 
 func (b *binder) pattern(p api.Term) bool {
-	for n := range nodes(p, kids) {
+	for n := range tree.Nodes(p, tree.Kids) {
 		if n.Op == api.TermVar && !b.binds(n.N) {
 			return false
 		}
@@ -48,7 +49,7 @@ func (b *binder) pattern(p api.Term) bool {
 }
 
 func (b *binder) right(rhs api.Term) bool {
-	for n := range nodes(rhs, kids) {
+	for n := range tree.Nodes(rhs, tree.Kids) {
 		switch {
 		case n.Op == api.TermVar && n.N >= b.vars:
 			return false
@@ -64,7 +65,7 @@ func (b *binder) right(rhs api.Term) bool {
 // times counts how often a variable stands in an expression.
 func times(v int, t api.Term) int {
 	count := 0
-	for n := range nodes(t, kids) {
+	for n := range tree.Nodes(t, tree.Kids) {
 		if n.Op == api.TermVar && n.N == v {
 			count++
 		}

@@ -3,6 +3,7 @@ package formed
 import (
 	"swingle/api"
 	"swingle/letters"
+	"swingle/tree"
 )
 
 func isBool(d api.KindData) bool {
@@ -30,7 +31,7 @@ func dataFormed(datas []api.KindData, d api.KindData) bool {
 // typeFormed returns whether a type is formed whose type variables are less than vars.
 func typeFormed(datas []api.KindData, t api.KindType, vars int) bool {
 	count := 0
-	for n := range nodes(t, parts) {
+	for n := range tree.Nodes(t, tree.Parts) {
 		count++
 		if count > api.KindNodes || !nodeFormed(datas, n, vars) {
 			return false
