@@ -6,6 +6,7 @@ import (
 	"slices"
 
 	"swingle/api"
+	"swingle/attempt"
 	"swingle/kind"
 	"swingle/tree"
 )
@@ -88,7 +89,7 @@ func needsThere(needs []api.ClassPred, types []api.KindType) []api.ClassPred {
 	for _, need := range needs {
 		t := types[need.Type.N]
 		if nodes(t, tree.Parts) > api.ClassNodes {
-			panic(giveUp{api.ErrLong})
+			panic(attempt.GiveUp{Why: api.ErrLong})
 		}
 		list = append(list, api.ClassPred{Class: need.Class, Type: t})
 	}

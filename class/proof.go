@@ -4,6 +4,7 @@ import (
 	"slices"
 
 	"swingle/api"
+	"swingle/attempt"
 )
 
 // step is a step of a proof, with the proofs that it is made of. Several steps
@@ -47,7 +48,7 @@ func (s by) dict() api.ClassDict {
 func written(s step) api.ClassDict {
 	made := s.dict()
 	if !small(made) {
-		panic(giveUp{api.ErrLong})
+		panic(attempt.GiveUp{Why: api.ErrLong})
 	}
 	return made
 }
@@ -67,7 +68,7 @@ func (p *prover) read(givens []api.ClassPred, goal api.ClassPred, d api.ClassDic
 		}
 		return made
 	}
-	panic(giveUp{api.ErrNone})
+	panic(attempt.GiveUp{Why: api.ErrNone})
 }
 
 // asGiven leaves what is given as it is.

@@ -5,23 +5,8 @@ import (
 	"slices"
 
 	"swingle/api"
+	"swingle/attempt"
 )
-
-// giveUp is what a search panics with where it can't go on.
-type giveUp struct {
-	why api.Errno
-}
-
-// attempt returns what a function returns, or why it gave up.
-func attempt[T any](do func() T) (made T, why api.Errno) {
-	defer func() {
-		if gave, ok := recover().(giveUp); ok {
-			why = gave.why
-		}
-	}()
-	made = do()
-	return made, api.OK
-}
 
 // classes is a set of classes: the bit c is there for the class c.
 type classes uint64
@@ -101,7 +86,7 @@ func typeVar(n int) api.KindType { return api.KindType{Sort: api.KindVar, N: n} 
 func (p *prover) instance(class int, t api.KindType) int {
 	n, ok := p.insts[head{class, t.Sort, t.N}]
 	if !ok {
-		panic(giveUp{api.ErrNone})
+		panic(attempt.GiveUp{Why: api.ErrNone})
 	}
 	return n
 }
@@ -118,7 +103,7 @@ func (p *prover) needs(n int, t api.KindType) []api.ClassPred {
 // follows returns whether a predicate has a first proof; in a world that is
 // right each one that has a proof does.
 func (p *prover) follows(givens []api.ClassPred, goal api.ClassPred) bool {
-	_, e := attempt(func() step { return p.first(givens, goal) })
+	_, e := attempt.Do(func() step { return p.first(givens, goal) })
 	return e == api.OK
 }
 

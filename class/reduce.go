@@ -1,6 +1,9 @@
 package class
 
-import "swingle/api"
+import (
+	"swingle/api"
+	"swingle/attempt"
+)
 
 // left has for each type variable the classes that it is to be in.
 type left [api.KindVars]classes
@@ -18,7 +21,7 @@ func (p *prover) reduced(list []api.ClassPred) []api.ClassPred {
 		}
 	}
 	if len(made) > api.ClassGivens {
-		panic(giveUp{api.ErrLong})
+		panic(attempt.GiveUp{Why: api.ErrLong})
 	}
 	return made
 }

@@ -4,24 +4,9 @@ import (
 	"slices"
 
 	"swingle/api"
+	"swingle/attempt"
 	"swingle/tree"
 )
-
-// giveUp is what the search for types panics with where it can't go on.
-type giveUp struct {
-	why api.Errno
-}
-
-// attempt returns what a function returns, or why it gave up.
-func attempt[T any](do func() T) (made T, why api.Errno) {
-	defer func() {
-		if gave, ok := recover().(giveUp); ok {
-			why = gave.why
-		}
-	}()
-	made = do()
-	return made, api.OK
-}
 
 // sort is what is known of a node.
 type sort int
@@ -154,7 +139,7 @@ func (g *graph) unify(a, b int) {
 	case y.sort == open:
 		g.nodes[b].to = a
 	case x.head != y.head:
-		panic(giveUp{api.ErrRule})
+		panic(attempt.GiveUp{Why: api.ErrRule})
 	default:
 		// Before the parts are the same, so that this ends also where they lead back here.
 		g.nodes[a].to = b
@@ -174,7 +159,7 @@ func (g *graph) mustEnd() {
 	visit = func(at int) {
 		switch states[at] {
 		case entered:
-			panic(giveUp{api.ErrRule})
+			panic(attempt.GiveUp{Why: api.ErrRule})
 		case unseen:
 			states[at] = entered
 			for _, p := range g.below(at) {
@@ -196,7 +181,7 @@ func (g *graph) read(at int, numbers map[int]int) api.KindType {
 	for range tree.Nodes(g.root(at), g.below) {
 		count++
 		if count > api.KindNodes {
-			panic(giveUp{api.ErrLong})
+			panic(attempt.GiveUp{Why: api.ErrLong})
 		}
 	}
 	return g.readSmall(g.root(at), numbers)
@@ -222,7 +207,7 @@ func number(at int, numbers map[int]int) int {
 	if !ok {
 		n = len(numbers)
 		if n >= api.KindVars {
-			panic(giveUp{api.ErrLong})
+			panic(attempt.GiveUp{Why: api.ErrLong})
 		}
 		numbers[at] = n
 	}

@@ -2,6 +2,7 @@ package kind
 
 import (
 	"swingle/api"
+	"swingle/attempt"
 	"swingle/formed"
 	"swingle/term"
 	"swingle/tree"
@@ -12,7 +13,7 @@ import (
 func principal(m api.ReadModule) ([]api.KindType, set, api.Errno) {
 	types := make([]api.KindType, len(m.Prog.Sig.Funs))
 	for _, group := range groups(m.Prog) {
-		made, why := attempt(func() []api.KindType { return groupTypes(m, group, types) })
+		made, why := attempt.Do(func() []api.KindType { return groupTypes(m, group, types) })
 		if why != api.OK {
 			return nil, group, why
 		}
@@ -46,7 +47,7 @@ func groupTypes(m api.ReadModule, group set, types []api.KindType) []api.KindTyp
 // fits returns whether a rule fits with types that are proposed, in a module
 // in which the functions of a group have just their types.
 func fits(m api.ReadModule, group set, types []api.KindType, r api.RuleRule) bool {
-	done, _ := attempt(func() bool {
+	done, _ := attempt.Do(func() bool {
 		w := newWalk(m.Datas, types)
 		vars := w.allFixed()
 		for _, f := range group.list() {
@@ -96,7 +97,7 @@ func infer(m api.ReadModule, t api.Term) (typing, api.Errno) {
 	if e != api.OK {
 		return typing{}, e
 	}
-	return attempt(func() typing { return typingOf(m.Datas, types, t) })
+	return attempt.Do(func() typing { return typingOf(m.Datas, types, t) })
 }
 
 func typingOf(datas []api.KindData, types []api.KindType, t api.Term) typing {

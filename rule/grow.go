@@ -4,6 +4,8 @@ import (
 	"slices"
 
 	"swingle/api"
+	"swingle/attempt"
+	"swingle/lists"
 )
 
 // plan says what a node of a definitional tree is, for some rules and a shape
@@ -42,7 +44,7 @@ func (p parted) node() api.RuleNode {
 // plan returns what the node for rules is. All of them fit the shape, and have
 // a constructor wherever it has one.
 func (s shape) plan(rules []int) plan {
-	if all(rules, s.matches) {
+	if lists.All(rules, s.matches) {
 		return leaf{slices.Clone(rules)}
 	}
 	if at, ok := s.neededByAll(rules); ok {
@@ -83,7 +85,7 @@ func treeOf(p api.RuleProg, fun int) api.RuleNode {
 	grow = func(s shape, rules []int) api.RuleNode {
 		count++
 		if count > api.RuleTree {
-			panic(giveUp{api.ErrLong})
+			panic(attempt.GiveUp{Why: api.ErrLong})
 		}
 		what := s.plan(rules)
 		made := what.node()

@@ -4,6 +4,7 @@ import (
 	"slices"
 
 	"swingle/api"
+	"swingle/attempt"
 	"swingle/term"
 )
 
@@ -19,7 +20,7 @@ search:
 		stack = stack[:len(stack)-1]
 		looks++
 		if looks > api.RuleLooks {
-			panic(giveUp{api.ErrLong})
+			panic(attempt.GiveUp{Why: api.ErrLong})
 		}
 		fitting, _ := divide(rules, s.fits)
 		if len(fitting) == 0 {
@@ -32,7 +33,7 @@ search:
 		}
 		stack = append(stack, s.split(fitting[0], groups)...)
 	}
-	panic(giveUp{api.ErrNone})
+	panic(attempt.GiveUp{Why: api.ErrNone})
 }
 
 // split returns the shapes with the constructors of a group at the first
@@ -73,7 +74,7 @@ func (s shape) written() []api.Term {
 	for _, t := range s.args {
 		arg := number(t)
 		if term.Check(s.Sig, arg) != api.OK {
-			panic(giveUp{api.ErrLong})
+			panic(attempt.GiveUp{Why: api.ErrLong})
 		}
 		args = append(args, arg)
 	}

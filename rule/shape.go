@@ -7,22 +7,6 @@ import (
 	"swingle/api"
 )
 
-// giveUp is what panics where there is no result.
-type giveUp struct {
-	why api.Errno
-}
-
-// attempt returns what a function returns, or why it gave up.
-func attempt[T any](do func() T) (made T, why api.Errno) {
-	defer func() {
-		if gave, ok := recover().(giveUp); ok {
-			why = gave.why
-		}
-	}()
-	made = do()
-	return made, api.OK
-}
-
 // position is a path to an argument, or to a part of one. The numbers of the
 // path are one greater here, as 0 stands behind the last one. It has room for
 // each position of a pattern's constructor, as none is deeper than TermDepth.

@@ -3,12 +3,13 @@ package term
 import (
 	"swingle/api"
 	"swingle/letters"
+	"swingle/lists"
 )
 
 // checkAll returns ErrArg if a signature, or one of some expressions, is not formed.
 func checkAll(s api.TermSig, list ...api.Term) api.Errno {
 	isFormed := func(t api.Term) bool { return formed(s, t) }
-	if !sigFormed(s) || !all(list, isFormed) {
+	if !sigFormed(s) || !lists.All(list, isFormed) {
 		return api.ErrArg
 	}
 	return api.OK
@@ -19,19 +20,10 @@ func checkValues(s api.TermSig, list ...api.Term) api.Errno {
 	if e := checkAll(s, list...); e != api.OK {
 		return e
 	}
-	if !all(list, isValue) {
+	if !lists.All(list, isValue) {
 		return api.ErrArg
 	}
 	return api.OK
-}
-
-func all[T any](list []T, is func(T) bool) bool {
-	for _, x := range list {
-		if !is(x) {
-			return false
-		}
-	}
-	return true
 }
 
 func sigFormed(s api.TermSig) bool {
@@ -49,7 +41,7 @@ func sigFormed(s api.TermSig) bool {
 		taken[n.Name] = true
 		return 0 <= n.Args && n.Args <= api.TermArgs
 	}
-	return all(s.Cons, isFormed) && all(s.Funs, isFormed)
+	return lists.All(s.Cons, isFormed) && lists.All(s.Funs, isFormed)
 }
 
 // formed stops at the first node that is not as it must be, before it goes
@@ -138,7 +130,7 @@ func isVar(n int) bool {
 // bindings: there are no more variables that increase.
 func listFormed(s api.TermSig, l []api.TermBind) bool {
 	before := -1
-	return all(l, func(b api.TermBind) bool {
+	return lists.All(l, func(b api.TermBind) bool {
 		increases := b.Var > before
 		before = b.Var
 		return increases && isVar(b.Var) && formed(s, b.Term)

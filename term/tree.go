@@ -6,20 +6,12 @@ import (
 	"slices"
 
 	"swingle/api"
+	"swingle/tree"
 )
 
 // nodes goes through an expression, with the depth of each node below the
 // top (1): a node before its Kids, and these in order.
-func nodes(t api.Term) iter.Seq2[int, api.Term] {
-	return func(yield func(int, api.Term) bool) {
-		var visit func(depth int, t api.Term) bool
-		visit = func(depth int, t api.Term) bool {
-			below := func(k api.Term) bool { return visit(depth+1, k) }
-			return yield(depth, t) && all(t.Kids, below)
-		}
-		visit(1, t)
-	}
-}
+func nodes(t api.Term) iter.Seq2[int, api.Term] { return tree.Levels(t, tree.Kids) }
 
 // rebuild returns a node with what is made of its Kids, in order.
 func rebuild(t api.Term, of func(api.Term) api.Term) api.Term {

@@ -11,19 +11,31 @@ import (
 // Nodes goes through a tree: a node before those below it, and these in order.
 func Nodes[T any](top T, below func(T) []T) iter.Seq[T] {
 	return func(yield func(T) bool) {
-		var visit func(node T) bool
-		visit = func(node T) bool {
+		for _, node := range Levels(top, below) {
 			if !yield(node) {
+				return
+			}
+		}
+	}
+}
+
+// Levels goes through a tree as Nodes does, with the depth of each node, which
+// is 1 at the top.
+func Levels[T any](top T, below func(T) []T) iter.Seq2[int, T] {
+	return func(yield func(int, T) bool) {
+		var visit func(depth int, node T) bool
+		visit = func(depth int, node T) bool {
+			if !yield(depth, node) {
 				return false
 			}
 			for _, next := range below(node) {
-				if !visit(next) {
+				if !visit(depth+1, next) {
 					return false
 				}
 			}
 			return true
 		}
-		visit(top)
+		visit(1, top)
 	}
 }
 

@@ -31,6 +31,18 @@ func TestNodes(t *testing.T) {
 	}
 }
 
+func TestLevels(t *testing.T) {
+	top := term(0, term(1, term(2), term(3, term(4))), term(5))
+	var met, depths []int
+	for depth, node := range tree.Levels(top, tree.Kids) {
+		met = append(met, node.N)
+		depths = append(depths, depth)
+	}
+	if !slices.Equal(met, []int{0, 1, 2, 3, 4, 5}) || !slices.Equal(depths, []int{1, 2, 3, 3, 4, 2}) {
+		t.Error(met, depths)
+	}
+}
+
 // Whoever asks can stop at any node, also in a tree that does not end.
 func TestStop(t *testing.T) {
 	endless := term(0)
