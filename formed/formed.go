@@ -1,6 +1,7 @@
 // Package formed tells which types, data types, programs and modules are
-// formed, as the chapters of the layers 2, 3 and 5 define it: these layers ask
-// for it, and the ones above them. It calls the layer 1.
+// formed, and which values are arguments, as the chapters of the layers 2, 3
+// and 5 define it: these layers ask for it, and the ones above them. It calls
+// the layer 1.
 //
 // No function relies on anything: they look at lengths before they go through
 // lists, so that they also end for arguments that lead back to themselves.
@@ -10,6 +11,7 @@ import (
 	"slices"
 
 	"swingle/api"
+	"swingle/lists"
 	"swingle/term"
 )
 
@@ -46,6 +48,15 @@ func Program(p api.RuleProg) bool {
 		}
 	}
 	return true
+}
+
+// Args returns whether values are the arguments of a function.
+func Args(s api.TermSig, fun int, args []api.Term) bool {
+	isValue := func(t api.Term) bool {
+		is, _, e := term.IsValue(s, t)
+		return is && e == api.OK
+	}
+	return lists.Has(s.Funs, fun) && len(args) == s.Funs[fun].Args && lists.All(args, isValue)
 }
 
 // Module returns whether a module is formed.

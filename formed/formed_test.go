@@ -215,6 +215,35 @@ func TestProgram(t *testing.T) {
 	}
 }
 
+func TestArgs(t *testing.T) {
+	s := program().Sig
+	pair := func(a, b api.Term) []api.Term { return []api.Term{a, b} }
+	for i, x := range []struct {
+		fun  int
+		args []api.Term
+	}{{0, pair(v(19), num(-1000000))}, {0, pair(con(3, v(0), con(2)), node(api.TermPart, 0))}, {1, nil}, {1, []api.Term{}}} {
+		if !formed.Args(s, x.fun, x.args) {
+			t.Error(i, x)
+		}
+	}
+	endless := con(3, num(1), num(1))
+	endless.Kids[0], endless.Kids[1] = endless, endless
+	for i, x := range []struct {
+		fun  int
+		args []api.Term
+	}{
+		{0, nil}, {0, pair(v(0), v(1))[:1]}, {0, append(pair(v(0), v(1)), v(2))}, {1, pair(v(0), v(1))}, {2, nil}, {-1, nil}, {math.MaxInt, nil}, {math.MinInt, nil}, {0, make([]api.Term, 1<<20)},
+		{0, pair(v(20), v(0))}, {0, pair(v(0), num(1000001))}, {0, pair(node(api.TermFun, 1), v(0))}, {0, pair(v(0), or(v(0), v(1)))}, {0, pair(v(0), con(3, v(0)))}, {0, pair(v(0), endless)}, {0, pair(api.Term{}, v(0))},
+	} {
+		if formed.Args(s, x.fun, x.args) {
+			t.Error(i, x)
+		}
+	}
+	if formed.Args(api.TermSig{Funs: s.Funs}, 0, pair(v(0), v(0))) {
+		t.Error("signatures")
+	}
+}
+
 func TestModule(t *testing.T) {
 	if !formed.Module(api.ReadModule{Datas: datas(), Prog: program(rule(1, 0, num(1)))}) {
 		t.Error("a module is formed")

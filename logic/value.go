@@ -5,6 +5,7 @@ import (
 
 	"swingle/api"
 	"swingle/attempt"
+	"swingle/fresh"
 	"swingle/lists"
 	"swingle/term"
 	"swingle/tree"
@@ -126,17 +127,13 @@ func same(a, b api.Term) bool {
 	return a.Op == b.Op && a.N == b.N && slices.EqualFunc(a.Kids, b.Kids, same)
 }
 
-func clone(t api.Term) api.Term {
-	return api.Term{Op: t.Op, N: t.N, Kids: lists.Map(t.Kids, clone)}
-}
-
 // join returns the join of two partial values, however large it is, or gives up.
 func join(a, b api.Term) api.Term {
 	switch {
 	case a.Op == api.TermBot:
-		return clone(b)
+		return fresh.Term(b)
 	case b.Op == api.TermBot:
-		return clone(a)
+		return fresh.Term(a)
 	case a.Op != b.Op || a.N != b.N || len(a.Kids) != len(b.Kids):
 		panic(attempt.GiveUp{Why: api.ErrNone})
 	}
@@ -169,7 +166,7 @@ func valuesOf(l []api.TermBind) values {
 
 func (l values) put(t api.Term) api.Term {
 	if v, ok := l[t.N]; ok && t.Op == api.TermVar {
-		return clone(v)
+		return fresh.Term(v)
 	}
 	return api.Term{Op: t.Op, N: t.N, Kids: lists.Map(t.Kids, l.put)}
 }

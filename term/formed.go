@@ -1,6 +1,8 @@
 package term
 
 import (
+	"slices"
+
 	"swingle/api"
 	"swingle/letters"
 	"swingle/lists"
@@ -33,12 +35,14 @@ func sigFormed(s api.TermSig) bool {
 	if s.Cons[0] != (api.TermName{Name: "False"}) || s.Cons[1] != (api.TermName{Name: "True"}) {
 		return false
 	}
-	taken := map[string]bool{}
+	// All functions of all layers ask this: names are so few and so short that
+	// a list of them is quicker than a map.
+	taken := make([]string, 0, api.TermCons+api.TermFuns)
 	isFormed := func(n api.TermName) bool {
-		if taken[n.Name] || !letters.IsName(n.Name) {
+		if slices.Contains(taken, n.Name) || !letters.IsName(n.Name) {
 			return false
 		}
-		taken[n.Name] = true
+		taken = append(taken, n.Name)
 		return 0 <= n.Args && n.Args <= api.TermArgs
 	}
 	return lists.All(s.Cons, isFormed) && lists.All(s.Funs, isFormed)

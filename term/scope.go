@@ -4,6 +4,7 @@ import (
 	"maps"
 
 	"swingle/api"
+	"swingle/fresh"
 )
 
 // varSet says of each variable whether it is in a set.
@@ -59,7 +60,7 @@ func rename(t api.Term, from, to int) api.Term {
 	case t.Op == api.TermVar && t.N == from:
 		return varTerm(to)
 	case t.Op == api.TermLet && t.N == from:
-		return api.Term{Op: t.Op, N: t.N, Kids: []api.Term{inside(t.Kids[0]), clone(t.Kids[1])}}
+		return api.Term{Op: t.Op, N: t.N, Kids: []api.Term{inside(t.Kids[0]), fresh.Term(t.Kids[1])}}
 	}
 	return rebuild(t, inside)
 }
@@ -122,7 +123,7 @@ func (s putScope) put(t api.Term) api.Term {
 	switch t.Op {
 	case api.TermVar:
 		if put, ok := s.find(t.N); ok {
-			return clone(put)
+			return fresh.Term(put)
 		}
 	case api.TermLet:
 		return s.putLet(t)

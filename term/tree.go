@@ -22,10 +22,6 @@ func rebuild(t api.Term, of func(api.Term) api.Term) api.Term {
 	return made
 }
 
-func clone(t api.Term) api.Term {
-	return rebuild(t, clone)
-}
-
 func varTerm(n int) api.Term {
 	return api.Term{Op: api.TermVar, N: n}
 }

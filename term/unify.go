@@ -4,6 +4,7 @@ import (
 	"slices"
 
 	"swingle/api"
+	"swingle/fresh"
 )
 
 // matcher has what stands for each variable that was met.
@@ -24,7 +25,7 @@ func (m matcher) list() []api.TermBind {
 	var l []api.TermBind
 	for v := range api.TermVars {
 		if t, ok := m[v]; ok {
-			l = append(l, api.TermBind{Var: v, Term: clone(t)})
+			l = append(l, api.TermBind{Var: v, Term: fresh.Term(t)})
 		}
 	}
 	return l
