@@ -8,6 +8,7 @@ import (
 	"testing"
 
 	"swingle/api"
+	"swingle/claims"
 	"swingle/class"
 )
 
@@ -214,40 +215,17 @@ func TestAnything(t *testing.T) {
 	}
 }
 
-// memory has all parts of lists that were met.
-type memory struct {
-	*testing.T
-	met map[any]bool
-}
-
-func claim[T any](m memory, list []T) {
-	list = list[:cap(list)]
-	for i := range list {
-		if m.met[&list[i]] {
-			m.Fatal("memory is shared")
-		}
-		m.met[&list[i]] = true
-	}
-}
-
-func (m memory) kinds(list []api.KindType) {
-	claim(m, list)
-	for _, t := range list {
-		m.kinds(t.Parts)
-	}
-}
-
-func (m memory) preds(list []api.ClassPred) {
-	claim(m, list)
+func claimPreds(m claims.Memory, list []api.ClassPred) {
+	claims.List(m, list)
 	for _, p := range list {
-		m.kinds(p.Type.Parts)
+		m.Types(p.Type.Parts)
 	}
 }
 
-func (m memory) proofs(list []api.ClassDict) {
-	claim(m, list)
+func claimProofs(m claims.Memory, list []api.ClassDict) {
+	claims.List(m, list)
 	for _, d := range list {
-		m.proofs(d.Kids)
+		claimProofs(m, d.Kids)
 	}
 }
 
@@ -268,32 +246,32 @@ func TestMemory(t *testing.T) {
 	for range 300 {
 		x := a.random(of)
 		x.givens, x.goals, x.goal.Type = freshPreds(x.givens), freshPreds(x.goals), freshKind(x.goal.Type)
-		mem := memory{t, map[any]bool{}}
-		mem.preds(x.givens)
-		mem.preds(x.goals)
-		mem.preds([]api.ClassPred{x.goal})
+		mem := claims.New(t.Fatal)
+		claimPreds(mem, x.givens)
+		claimPreds(mem, x.goals)
+		claimPreds(mem, []api.ClassPred{x.goal})
 		for n := range x.w.Insts {
 			x.w.Insts[n].Needs = freshPreds(x.w.Insts[n].Needs)
-			mem.preds(x.w.Insts[n].Needs)
+			claimPreds(mem, x.w.Insts[n].Needs)
 		}
 		x.proof = freshProof(x.proof)
-		mem.proofs([]api.ClassDict{x.proof})
+		claimProofs(mem, []api.ClassDict{x.proof})
 		before := x.text()
 		for range 2 {
 			first, _ := class.Prove(x.w, x.givens, x.goal)
-			mem.proofs([]api.ClassDict{first})
+			claimProofs(mem, []api.ClassDict{first})
 			class.Verify(x.w, x.givens, x.goal, x.proof)
 			normal, _ := class.Normal(x.w, x.givens, x.goal, x.proof)
-			mem.proofs([]api.ClassDict{normal})
+			claimProofs(mem, []api.ClassDict{normal})
 			class.Entails(x.w, x.givens, x.goals)
 			context, _ := class.Reduce(x.w, x.givens)
-			mem.preds(context)
+			claimPreds(mem, context)
 			needs, _ := class.Needs(x.w, x.m, x.funs, x.t)
-			mem.preds(needs)
+			claimPreds(mem, needs)
 			places, _ := class.Put(x.w, x.m, x.funs, x.t)
-			claim(mem, places)
+			claims.List(mem, places)
 			for _, p := range places {
-				mem.proofs(p.Dicts)
+				claimProofs(mem, p.Dicts)
 			}
 			class.Check(x.w)
 		}
@@ -303,15 +281,15 @@ func TestMemory(t *testing.T) {
 	}
 	// A proof that stands in its normal form several times.
 	top := topWorld(t)
-	mem := memory{t, map[any]bool{}}
+	mem := claims.New(t.Fatal)
 	proof := proofOf("up(3, 11(11(g(0))))")
-	mem.proofs([]api.ClassDict{proof})
+	claimProofs(mem, []api.ClassDict{proof})
 	for range 2 {
 		normal, e := class.Normal(top, predsOf(top.Datas, "3 ?0"), predsOf(top.Datas, "1 C(C(?0))")[0], proof)
 		if e != api.OK || countSteps(normal) != 1+3*(1+3*2) {
 			t.Fatal(e, showProof(normal))
 		}
-		mem.proofs([]api.ClassDict{normal})
+		claimProofs(mem, []api.ClassDict{normal})
 	}
 }
 

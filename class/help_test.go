@@ -7,6 +7,7 @@ import (
 	"testing"
 
 	"swingle/api"
+	"swingle/build"
 	"swingle/read"
 )
 
@@ -36,23 +37,15 @@ func mustGoal(t *testing.T, m api.ReadModule, source string) api.Term {
 	return g
 }
 
-func node(op api.TermOp, n int, kids ...api.Term) api.Term {
-	return api.Term{Op: op, N: n, Kids: kids}
-}
-
-func num(n int) api.Term { return node(api.TermInt, n) }
-
-func typeVar(n int) api.KindType { return api.KindType{Sort: api.KindVar, N: n} }
-
-func integers() api.KindType { return api.KindType{Sort: api.KindInt} }
-
-func arrow(a, b api.KindType) api.KindType {
-	return api.KindType{Sort: api.KindFun, Parts: []api.KindType{a, b}}
-}
-
-func ofData(n int, parts ...api.KindType) api.KindType {
-	return api.KindType{Sort: api.KindOfData, N: n, Parts: parts}
-}
+// Short names.
+var (
+	node     = build.Node
+	num      = build.Num
+	typeVar  = build.TypeVar
+	integers = build.Integers
+	arrow    = build.Arrow
+	ofData   = build.OfData
+)
 
 func pred(class int, t api.KindType) api.ClassPred { return api.ClassPred{Class: class, Type: t} }
 

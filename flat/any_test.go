@@ -6,6 +6,7 @@ import (
 	"testing"
 
 	"swingle/api"
+	"swingle/claims"
 	"swingle/flat"
 )
 
@@ -116,51 +117,22 @@ func TestAnything(t *testing.T) {
 	}
 }
 
-// memory has all parts of lists that were met.
-type memory struct {
-	*testing.T
-	met map[any]bool
-}
-
-func claim[T any](m memory, list []T) {
-	list = list[:cap(list)]
-	for i := range list {
-		if m.met[&list[i]] {
-			m.Fatal("memory is shared")
-		}
-		m.met[&list[i]] = true
-	}
-}
-
-func (m memory) terms(list []api.Term) {
-	claim(m, list)
-	for _, x := range list {
-		m.terms(x.Kids)
-	}
-}
-
-func (m memory) trees(list []api.FlatTree) {
-	claim(m, list)
+func claimTrees(m claims.Memory, list []api.FlatTree) {
+	claims.List(m, list)
 	for _, n := range list {
-		claim(m, n.Vars)
-		claim(m, n.Alts)
+		claims.List(m, n.Vars)
+		claims.List(m, n.Alts)
 		for _, a := range n.Alts {
-			claim(m, a.Vars)
-			m.trees([]api.FlatTree{a.Then})
+			claims.List(m, a.Vars)
+			claimTrees(m, []api.FlatTree{a.Then})
 		}
-		m.trees(n.Kids)
+		claimTrees(m, n.Kids)
 	}
 }
 
-func (m memory) flat(f api.FlatProg) {
-	claim(m, f.Prog.Sig.Cons)
-	claim(m, f.Prog.Sig.Funs)
-	claim(m, f.Prog.Rules)
-	for _, r := range f.Prog.Rules {
-		m.terms(r.Pats)
-		m.terms(r.Rhs.Kids)
-	}
-	m.trees(f.Trees)
+func claimFlat(m claims.Memory, f api.FlatProg) {
+	m.Program(f.Prog)
+	claimTrees(m, f.Trees)
 }
 
 // fresh returns a flat program that shares no memory with one, or within itself.
@@ -186,26 +158,26 @@ func TestMemory(t *testing.T) {
 		for i := range x.f.Prog.Rules {
 			x.f.Prog.Rules[i].Rhs = con(3, con(3, con(2)))
 		}
-		mem := memory{t, map[any]bool{}}
-		mem.flat(x.f)
-		mem.terms(x.args)
+		mem := claims.New(t.Fatal)
+		claimFlat(mem, x.f)
+		mem.Terms(x.args)
 		before := showFlat(x.f) + showTerms(x.args)
 		for range 2 {
 			if e := flat.Check(x.f); e != api.OK {
 				t.Fatal(e)
 			}
 			made, _ := flat.Flat(x.f.Prog)
-			mem.flat(made)
+			claimFlat(mem, made)
 			rules, asks, _ := flat.Follow(x.f, x.fun, x.args)
-			claim(mem, rules)
-			claim(mem, asks)
+			claims.List(mem, rules)
+			claims.List(mem, asks)
 			needed, _ := flat.Needs(x.f, x.fun)
-			claim(mem, needed)
+			claims.List(mem, needed)
 			joined, e := flat.Join(x.f, x.fun)
 			if e != api.OK || len(joined.Trees) != len(made.Trees) {
 				t.Fatal(e)
 			}
-			mem.flat(joined)
+			claimFlat(mem, joined)
 		}
 		if showFlat(x.f)+showTerms(x.args) != before {
 			t.Fatal("an argument was changed", before, showFlat(x.f))

@@ -7,6 +7,7 @@ import (
 
 	"swingle/api"
 	"swingle/flat"
+	"swingle/sample"
 )
 
 // asked is what all functions are called with.
@@ -90,11 +91,11 @@ func TestCheckExamples(t *testing.T) {
 		asks(1, alt(2, nil, is(0, 0)), s(2, is(1, 0, 2))),
 		asks(0, s(2, is(1, 2, 1))),
 	} {
-		if e := flat.Check(with(t, examples, tree)); e != api.ErrArg {
+		if e := flat.Check(with(t, sample.Rules, tree)); e != api.ErrArg {
 			t.Error(i, e)
 		}
 	}
-	if e := flat.Check(flatOf(t, examples)); e != api.OK {
+	if e := flat.Check(flatOf(t, sample.Rules)); e != api.OK {
 		t.Error(e)
 	}
 }
@@ -262,7 +263,7 @@ func TestLimits(t *testing.T) {
 		return tree
 	}
 	one := progOf(t, "f(x) = 1;")
-	four := wide(ruleOf(0, v(0), v(0), v(0), v(0)))
+	four := sample.Wide(sample.Rule(0, v(0), v(0), v(0), v(0)))
 	four.Sig.Funs = four.Sig.Funs[:1]
 	all := is(0, 0, 1, 2, 3)
 	for i, x := range []struct {

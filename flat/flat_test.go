@@ -5,6 +5,7 @@ import (
 
 	"swingle/api"
 	"swingle/flat"
+	"swingle/sample"
 )
 
 func checkFlat(t *testing.T, rules string, wants ...string) {
@@ -26,7 +27,7 @@ func checkFlat(t *testing.T, rules string, wants ...string) {
 
 // P7.2: the examples.
 func TestFlatExamples(t *testing.T) {
-	checkFlat(t, examples,
+	checkFlat(t, sample.Rules,
 		"case 0 {2: rule 0 [1]; 3 [2]: rule 1 [2 1]}",
 		"or {case 0 {0: case 1 {0: rule 4}; 1: rule 2 [1]}; case 1 {1: rule 3 [0]}}",
 		"or {rule 5; rule 6}",
@@ -82,23 +83,6 @@ func TestFlatNothing(t *testing.T) {
 	}
 }
 
-// wide has the constructors False, True, Z 2, Q 3 with 4 arguments, and S 4 with one, and functions with 4 and 1.
-func wide(rules ...api.RuleRule) api.RuleProg {
-	return api.RuleProg{Sig: api.TermSig{
-		Cons: []api.TermName{{Name: "False"}, {Name: "True"}, {Name: "Z"}, {Name: "Q", Args: 4}, {Name: "S", Args: 1}},
-		Funs: []api.TermName{{Name: "f", Args: 4}, {Name: "g", Args: 1}},
-	}, Rules: rules}
-}
-
-// thicket is a pattern of 4 n + 1 constructors.
-func thicket(n int) api.Term {
-	pat := con(2)
-	for range n {
-		pat = con(3, con(2), pat, con(2), con(2))
-	}
-	return pat
-}
-
 // P7.2: a tree's variables are below 60, and its nodes those that a definitional tree can have, with the rules of its leaves.
 func TestFlatLong(t *testing.T) {
 	twice := func(r api.RuleRule) []api.RuleRule { return []api.RuleRule{r, r} }
@@ -114,21 +98,21 @@ func TestFlatLong(t *testing.T) {
 		nodes int // 0: too many nodes or numbers
 	}{
 		// 4 and 56 numbers, and a node for each of the 57 constructors.
-		{wide(ruleOf(0, thicket(9), thicket(5), v(0), v(0))), 59},
-		{wide(ruleOf(0, thicket(9), thicket(5), con(2), con(2))), 61},
-		{wide(ruleOf(0, thicket(9), thicket(5), con(4, con(2)), v(0))), 0},
-		{wide(ruleOf(0, thicket(9), thicket(5), con(4, v(0)), v(0))), 0},
-		{wide(ruleOf(0, thicket(9), thicket(6), v(0), v(0))), 0},
+		{sample.Wide(sample.Rule(0, sample.Thicket(9), sample.Thicket(5), v(0), v(0))), 59},
+		{sample.Wide(sample.Rule(0, sample.Thicket(9), sample.Thicket(5), con(2), con(2))), 61},
+		{sample.Wide(sample.Rule(0, sample.Thicket(9), sample.Thicket(5), con(4, con(2)), v(0))), 0},
+		{sample.Wide(sample.Rule(0, sample.Thicket(9), sample.Thicket(5), con(4, v(0)), v(0))), 0},
+		{sample.Wide(sample.Rule(0, sample.Thicket(9), sample.Thicket(6), v(0), v(0))), 0},
 		// Layer 5 has 80 nodes, and no more; those of a leaf's rules come with it.
-		{wide(ruleOf(0, thicket(9), thicket(9), tower(4, 4, con(2)), v(0))), 0},
-		{wide(ruleOf(0, thicket(9), thicket(9), thicket(9), thicket(9))), 0},
-		{wide(twice(ruleOf(0, thicket(9), thicket(5), con(2), con(2)))...), 63},
-		{wide(sixteen(ruleOf(0, thicket(9), thicket(5), con(2), con(2)))...), 77},
+		{sample.Wide(sample.Rule(0, sample.Thicket(9), sample.Thicket(9), tower(4, 4, con(2)), v(0))), 0},
+		{sample.Wide(sample.Rule(0, sample.Thicket(9), sample.Thicket(9), sample.Thicket(9), sample.Thicket(9))), 0},
+		{sample.Wide(twice(sample.Rule(0, sample.Thicket(9), sample.Thicket(5), con(2), con(2)))...), 63},
+		{sample.Wide(sixteen(sample.Rule(0, sample.Thicket(9), sample.Thicket(5), con(2), con(2)))...), 77},
 		// With an or each Kid has numbers of its own.
-		{wide(ruleOf(0, thicket(9), v(0), v(0), v(0)), ruleOf(0, v(0), thicket(9), con(2), v(0))), 78},
+		{sample.Wide(sample.Rule(0, sample.Thicket(9), v(0), v(0), v(0)), sample.Rule(0, v(0), sample.Thicket(9), con(2), v(0))), 78},
 		// Another function's tree is too large.
-		{wide(ruleOf(1, con(2)), ruleOf(0, thicket(9), thicket(6), v(0), v(0))), 0},
-		{wide(ruleOf(1, con(2)), ruleOf(0, thicket(9), thicket(9), thicket(9), thicket(9))), 0},
+		{sample.Wide(sample.Rule(1, con(2)), sample.Rule(0, sample.Thicket(9), sample.Thicket(6), v(0), v(0))), 0},
+		{sample.Wide(sample.Rule(1, con(2)), sample.Rule(0, sample.Thicket(9), sample.Thicket(9), sample.Thicket(9), sample.Thicket(9))), 0},
 	} {
 		f, e := flat.Flat(x.p)
 		if x.nodes == 0 {
@@ -145,11 +129,11 @@ func TestFlatLong(t *testing.T) {
 
 // bushy is a program whose function's definitional tree has 79 nodes and a leaf with some rules.
 func bushy(rules int) api.RuleProg {
-	p := wide()
+	p := sample.Wide()
 	for range rules {
-		p.Rules = append(p.Rules, ruleOf(0, thicket(9), v(0), v(0), v(0)))
+		p.Rules = append(p.Rules, sample.Rule(0, sample.Thicket(9), v(0), v(0), v(0)))
 	}
-	p.Rules = append(p.Rules, ruleOf(0, v(0), thicket(9), tower(1, 4, con(2)), v(0)))
+	p.Rules = append(p.Rules, sample.Rule(0, v(0), sample.Thicket(9), tower(1, 4, con(2)), v(0)))
 	return p
 }
 
@@ -171,7 +155,7 @@ func checkFollow(t *testing.T, f api.FlatProg, fun int, args []api.Term, rules, 
 
 // P7.3: the examples.
 func TestFollowExamples(t *testing.T) {
-	f := flatOf(t, examples)
+	f := flatOf(t, sample.Rules)
 	checkFollow(t, f, 1, terms(con(1), con(1)), "2 3", "0 1")
 	checkFollow(t, f, 1, terms(v(0), con(1)), "3", "0 1")
 	checkFollow(t, f, 1, terms(con(0), v(0)), "", "0 1")
@@ -181,7 +165,7 @@ func TestFollowExamples(t *testing.T) {
 func TestFollow(t *testing.T) {
 	z, one := con(2), con(3, con(2))
 	part := node(api.TermPart, 0)
-	f := flatOf(t, examples)
+	f := flatOf(t, sample.Rules)
 	for _, x := range []struct {
 		fun          int
 		args         []api.Term
@@ -243,7 +227,7 @@ func checkNeeds(t *testing.T, f api.FlatProg, fun int, want string) {
 
 // P7.4: the examples.
 func TestNeedsExamples(t *testing.T) {
-	f := flatOf(t, examples)
+	f := flatOf(t, sample.Rules)
 	for fun, want := range []string{"0", "", "", ""} {
 		checkNeeds(t, f, fun, want)
 	}

@@ -7,30 +7,16 @@ import (
 	"testing"
 
 	"swingle/api"
+	"swingle/build"
 	"swingle/flat"
 	"swingle/read"
+	"swingle/sample"
 )
 
-// datas have the constructors False, True, Z 2, S 3, Nil 4, Cons 5 and Tri 6.
-const datas = "data Nat = Z | S(Nat); data List = Nil | Cons(Nat, List); data Tri = Tri(Nat, Nat, Nat);"
-
-// examples are the rules of the chapter's examples: add 0, or 1, coin 2, len 3.
-const examples = `
-add(Z, y) = y;
-add(S(x), y) = S(add(x, y));
-or(True, y) = True;
-or(x, True) = True;
-or(False, False) = False;
-coin = Z;
-coin = S(Z);
-len(Cons(x, l)) = S(len(l));
-len(z) = add(v, v);
-`
-
-// progOf reads rules with the constructors of datas.
+// progOf reads rules with the constructors of sample.Datas.
 func progOf(t *testing.T, rules string) api.RuleProg {
 	t.Helper()
-	m, e := read.Module(datas + rules)
+	m, e := read.Module(sample.Datas + rules)
 	if e != api.OK {
 		t.Fatal(e, rules)
 	}
@@ -55,25 +41,15 @@ func with(t *testing.T, rules string, trees ...api.FlatTree) api.FlatProg {
 	return f
 }
 
-func node(op api.TermOp, n int, kids ...api.Term) api.Term {
-	return api.Term{Op: op, N: n, Kids: kids}
-}
-
-func v(n int) api.Term { return node(api.TermVar, n) }
-
-func num(n int) api.Term { return node(api.TermInt, n) }
-
-func con(n int, kids ...api.Term) api.Term { return node(api.TermCon, n, kids...) }
-
-func terms(list ...api.Term) []api.Term { return list }
-
-// tower is so many constructors with one argument around a term.
-func tower(n, con int, inside api.Term) api.Term {
-	for range n {
-		inside = node(api.TermCon, con, inside)
-	}
-	return inside
-}
+// Short names.
+var (
+	node  = build.Node
+	v     = build.Var
+	num   = build.Num
+	con   = build.Con
+	terms = build.Terms
+	tower = build.Tower
+)
 
 func ints(list ...int) []int { return list }
 
@@ -96,31 +72,6 @@ func is(rule int, vars ...int) api.FlatTree {
 }
 
 func fail() api.FlatTree { return api.FlatTree{Op: api.FlatFail} }
-
-// numbered returns patterns whose variables are numbered from 0 on as they come, and how many there are.
-func numbered(pats []api.Term) ([]api.Term, int) {
-	next := 0
-	var number func(list []api.Term) []api.Term
-	number = func(list []api.Term) []api.Term {
-		var made []api.Term
-		for _, x := range list {
-			x.Kids = number(x.Kids)
-			if x.Op == api.TermVar {
-				x.N = next
-				next++
-			}
-			made = append(made, x)
-		}
-		return made
-	}
-	return number(pats), next
-}
-
-// ruleOf is a rule whose variables are numbered as they come, and which is 1.
-func ruleOf(fun int, pats ...api.Term) api.RuleRule {
-	pats, vars := numbered(pats)
-	return api.RuleRule{Fun: fun, Pats: pats, Rhs: num(1), Vars: vars}
-}
 
 func showNumbers(list []int) string {
 	var texts []string

@@ -9,6 +9,7 @@ import (
 	"swingle/api"
 	"swingle/flat"
 	"swingle/rule"
+	"swingle/sample"
 )
 
 // maker makes random programs, right trees and values.
@@ -45,7 +46,7 @@ func (m *maker) rule(fun int) api.RuleRule {
 	for range m.Funs[fun].Args {
 		pats = append(pats, m.term(m.Intn(4), func() api.Term { return v(0) }))
 	}
-	r := ruleOf(fun, pats...)
+	r := sample.Rule(fun, pats...)
 	if r.Vars > api.TermVars {
 		return m.rule(fun)
 	}
@@ -324,7 +325,7 @@ func TestFlatReference(t *testing.T) {
 	})
 }
 
-// large makes a rule with large patterns of the constructors Q and S of wide.
+// large makes a rule with large patterns of the constructors Q and S of sample.Wide.
 func (m *maker) large(fun, args int) api.RuleRule {
 	rich := 0
 	var grow func(deep int) api.Term
@@ -347,7 +348,7 @@ func (m *maker) large(fun, args int) api.RuleRule {
 		rich = 2 + m.Intn(6)
 		pats = append(pats, grow(5))
 	}
-	return ruleOf(fun, pats...)
+	return sample.Rule(fun, pats...)
 }
 
 // P7.2: trees that are too large are those of the second version.
@@ -355,7 +356,7 @@ func TestLargeReference(t *testing.T) {
 	m := newMaker(t, 3)
 	met := map[string]int{}
 	for range 1200 {
-		p := wide()
+		p := sample.Wide()
 		for range 1 + m.Intn(2) {
 			p.Rules = append(p.Rules, m.large(0, 4))
 		}

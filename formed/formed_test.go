@@ -5,20 +5,23 @@ import (
 	"testing"
 
 	"swingle/api"
+	"swingle/build"
 	"swingle/formed"
 )
 
-func typeVar(n int) api.KindType { return api.KindType{Sort: api.KindVar, N: n} }
-
-func integers() api.KindType { return api.KindType{Sort: api.KindInt} }
-
-func arrow(a, b api.KindType) api.KindType {
-	return api.KindType{Sort: api.KindFun, Parts: []api.KindType{a, b}}
-}
-
-func ofData(n int, parts ...api.KindType) api.KindType {
-	return api.KindType{Sort: api.KindOfData, N: n, Parts: parts}
-}
+// Short names.
+var (
+	typeVar  = build.TypeVar
+	integers = build.Integers
+	arrow    = build.Arrow
+	ofData   = build.OfData
+	node     = build.Node
+	v        = build.Var
+	num      = build.Num
+	con      = build.Con
+	let      = build.Let
+	or       = build.Or
+)
 
 func types(list ...api.KindType) []api.KindType { return list }
 
@@ -139,20 +142,6 @@ func TestType(t *testing.T) {
 		}
 	}
 }
-
-func node(op api.TermOp, n int, kids ...api.Term) api.Term {
-	return api.Term{Op: op, N: n, Kids: kids}
-}
-
-func v(n int) api.Term { return node(api.TermVar, n) }
-
-func num(n int) api.Term { return node(api.TermInt, n) }
-
-func con(n int, kids ...api.Term) api.Term { return node(api.TermCon, n, kids...) }
-
-func let(n int, a, b api.Term) api.Term { return node(api.TermLet, n, a, b) }
-
-func or(a, b api.Term) api.Term { return node(api.TermOr, 0, a, b) }
 
 // program has the constructors of datas, a function with two arguments, and one without.
 func program(rules ...api.RuleRule) api.RuleProg {

@@ -8,6 +8,7 @@ import (
 	"testing"
 
 	"swingle/api"
+	"swingle/claims"
 	"swingle/kind"
 )
 
@@ -178,40 +179,17 @@ func TestAnything(t *testing.T) {
 	}
 }
 
-// memory has all parts of lists that were met.
-type memory struct {
-	*testing.T
-	met map[any]bool
-}
-
-func claim[T any](m memory, list []T) {
-	list = list[:cap(list)]
-	for i := range list {
-		if m.met[&list[i]] {
-			m.Fatal("memory is shared")
-		}
-		m.met[&list[i]] = true
-	}
-}
-
-func (m memory) kinds(list []api.KindType) {
-	claim(m, list)
-	for _, t := range list {
-		m.kinds(t.Parts)
-	}
-}
-
-func (m memory) binds(list []api.KindBind) {
-	claim(m, list)
+func claimBinds(m claims.Memory, list []api.KindBind) {
+	claims.List(m, list)
 	for _, b := range list {
-		m.kinds(b.Type.Parts)
+		m.Types(b.Type.Parts)
 	}
 }
 
 // R4: no argument is changed, and results share no memory with arguments, or with each other.
 func TestMemory(t *testing.T) {
 	r := rand.New(rand.NewSource(10))
-	mem := memory{t, map[any]bool{}}
+	mem := claims.New(t.Fatal)
 	for range 200 {
 		m := randomModule(t, r)
 		x := randomTerm(t, r, m)
@@ -222,29 +200,29 @@ func TestMemory(t *testing.T) {
 			return showModule(m) + showTerm(x) + showTypes(m.Datas, types) + show(m.Datas, one) + show(m.Datas, two)
 		}
 		before := text()
-		mem.kinds([]api.KindType{one, two})
-		mem.kinds(types)
+		mem.Types([]api.KindType{one, two})
+		mem.Types(types)
 		for _, d := range m.Datas {
-			each(d.Cons, func(args []api.KindType) bool { mem.kinds(args); return true })
+			each(d.Cons, func(args []api.KindType) bool { mem.Types(args); return true })
 		}
 		for range 2 {
 			groups, _ := kind.Groups(m.Prog)
-			claim(mem, groups)
-			each(groups, func(g []int) bool { claim(mem, g); return true })
+			claims.List(mem, groups)
+			each(groups, func(g []int) bool { claims.List(mem, g); return true })
 			again, _ := kind.Types(m)
-			mem.kinds(again)
+			mem.Types(again)
 			group, _ := kind.Wrong(m)
-			claim(mem, group)
+			claims.List(mem, group)
 			whole, free, _ := kind.Infer(m, x)
-			mem.kinds([]api.KindType{whole})
-			mem.kinds(free)
+			mem.Types([]api.KindType{whole})
+			mem.Types(free)
 			uses, _ := kind.Uses(m, x)
-			claim(mem, uses)
-			each(uses, func(u api.KindUse) bool { mem.kinds(u.Types); return true })
+			claims.List(mem, uses)
+			each(uses, func(u api.KindUse) bool { mem.Types(u.Types); return true })
 			unifier, _ := kind.Unify(m.Datas, one, two)
-			mem.binds(unifier)
+			claimBinds(mem, unifier)
 			match, _ := kind.Match(m.Datas, one, two)
-			mem.binds(match)
+			claimBinds(mem, match)
 			kind.Accept(m, types)
 		}
 		if text() != before {
@@ -261,10 +239,10 @@ func TestMemory(t *testing.T) {
 		if e != api.OK || f != api.OK || g != api.OK || h != api.OK {
 			t.Fatal(e, f, g, h)
 		}
-		mem.kinds(types)
-		mem.kinds([]api.KindType{whole})
-		mem.kinds(free)
-		each(uses, func(u api.KindUse) bool { mem.kinds(u.Types); return true })
-		mem.binds(unifier)
+		mem.Types(types)
+		mem.Types([]api.KindType{whole})
+		mem.Types(free)
+		each(uses, func(u api.KindUse) bool { mem.Types(u.Types); return true })
+		claimBinds(mem, unifier)
 	}
 }

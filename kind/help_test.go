@@ -6,6 +6,7 @@ import (
 	"testing"
 
 	"swingle/api"
+	"swingle/build"
 	"swingle/read"
 )
 
@@ -45,31 +46,19 @@ func mustGoal(t *testing.T, m api.ReadModule, source string) api.Term {
 	return g
 }
 
-func node(op api.TermOp, n int, kids ...api.Term) api.Term {
-	return api.Term{Op: op, N: n, Kids: kids}
-}
-
-func v(n int) api.Term { return node(api.TermVar, n) }
-
-func num(n int) api.Term { return node(api.TermInt, n) }
-
-func con(n int, kids ...api.Term) api.Term { return node(api.TermCon, n, kids...) }
-
-func let(n int, a, b api.Term) api.Term { return node(api.TermLet, n, a, b) }
-
-func or(a, b api.Term) api.Term { return node(api.TermOr, 0, a, b) }
-
-func typeVar(n int) api.KindType { return api.KindType{Sort: api.KindVar, N: n} }
-
-func integers() api.KindType { return api.KindType{Sort: api.KindInt} }
-
-func arrow(a, b api.KindType) api.KindType {
-	return api.KindType{Sort: api.KindFun, Parts: []api.KindType{a, b}}
-}
-
-func ofData(n int, parts ...api.KindType) api.KindType {
-	return api.KindType{Sort: api.KindOfData, N: n, Parts: parts}
-}
+// Short names.
+var (
+	node     = build.Node
+	v        = build.Var
+	num      = build.Num
+	con      = build.Con
+	let      = build.Let
+	or       = build.Or
+	typeVar  = build.TypeVar
+	integers = build.Integers
+	arrow    = build.Arrow
+	ofData   = build.OfData
+)
 
 // typeReader reads types as the chapter writes them.
 type typeReader struct {

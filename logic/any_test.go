@@ -7,6 +7,7 @@ import (
 	"testing"
 
 	"swingle/api"
+	"swingle/claims"
 	"swingle/logic"
 )
 
@@ -129,35 +130,12 @@ func TestAnything(t *testing.T) {
 	}
 }
 
-// memory has all parts of lists that were met.
-type memory struct {
-	*testing.T
-	met map[any]bool
-}
-
-func claim[T any](m memory, list []T) {
-	list = list[:cap(list)]
-	for i := range list {
-		if m.met[&list[i]] {
-			m.Fatal("memory is shared")
-		}
-		m.met[&list[i]] = true
-	}
-}
-
-func (m memory) terms(list []api.Term) {
-	claim(m, list)
-	for _, x := range list {
-		m.terms(x.Kids)
-	}
-}
-
-func (m memory) proofs(list []api.LogicProof) {
-	claim(m, list)
+func claimProofs(m claims.Memory, list []api.LogicProof) {
+	claims.List(m, list)
 	for _, f := range list {
-		m.terms(f.Value.Kids)
-		m.terms(f.Binds)
-		m.proofs(f.Kids)
+		m.Terms(f.Value.Kids)
+		m.Terms(f.Binds)
+		claimProofs(m, f.Kids)
 	}
 }
 
@@ -178,31 +156,31 @@ func TestMemory(t *testing.T) {
 	a := anything{newMaker(t, 9)}
 	for range 500 {
 		x := a.random()
-		mem := memory{t, map[any]bool{}}
+		mem := claims.New(t.Fatal)
 		x.env, x.e, x.value, x.f = freshTerms(x.env), freshTerm(x.e), freshTerm(x.value), fresh(x.f)
 		for i := range x.binds {
 			x.binds[i].Term = freshTerm(x.binds[i].Term)
-			mem.terms(x.binds[i].Term.Kids)
+			mem.Terms(x.binds[i].Term.Kids)
 		}
-		mem.terms(x.env)
-		mem.terms(x.e.Kids)
-		mem.terms(x.value.Kids)
-		mem.proofs(proofs(x.f))
+		mem.Terms(x.env)
+		mem.Terms(x.e.Kids)
+		mem.Terms(x.value.Kids)
+		claimProofs(mem, proofs(x.f))
 		before := x.text()
 		for range 2 {
 			value, _ := logic.Accept(x.p, x.env, x.e, x.f)
-			mem.terms(value.Kids)
+			mem.Terms(value.Kids)
 			less, _ := logic.Lower(x.p, x.env, x.e, x.f, x.value)
-			mem.proofs(proofs(less))
+			claimProofs(mem, proofs(less))
 			whole, _ := logic.Lower(x.p, x.env, x.e, x.f, x.f.Value)
-			mem.proofs(proofs(whole))
+			claimProofs(mem, proofs(whole))
 			put, _ := logic.Put(x.p, x.f, x.binds)
-			mem.proofs(proofs(put))
+			claimProofs(mem, proofs(put))
 			rules, _, _ := logic.Calls(x.p, x.f)
-			claim(mem, rules)
+			claims.List(mem, rules)
 			for _, other := range append(slices.Clone(x.env), x.value, bottom()) {
 				join, _ := logic.Join(x.p.Sig, x.f.Value, other)
-				mem.terms(join.Kids)
+				mem.Terms(join.Kids)
 			}
 		}
 		if x.text() != before {

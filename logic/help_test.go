@@ -7,8 +7,10 @@ import (
 	"testing"
 
 	"swingle/api"
+	"swingle/build"
 	"swingle/logic"
 	"swingle/read"
+	"swingle/sample"
 )
 
 // source has the program of the chapter's examples, whose rules are 0 to 8, and
@@ -18,15 +20,7 @@ import (
 const source = `
 data Nat = Z | S(Nat);
 data List = Nil | Cons(Nat, List);
-add(Z, y) = y;
-add(S(x), y) = S(add(x, y));
-or(True, y) = True;
-or(x, True) = True;
-or(False, False) = False;
-coin = Z;
-coin = S(Z);
-len(Cons(x, l)) = S(len(l));
-len(z) = add(v, v);
+` + sample.Rules + `
 half(x) = when add(y, y) =:= x then y;
 twice(f, x) = let y = f @ x in f @ y;
 map(f, Nil) = Nil;
@@ -58,21 +52,18 @@ func goal(t *testing.T, p api.RuleProg, source string) api.Term {
 	return x
 }
 
-func node(op api.TermOp, n int, kids ...api.Term) api.Term {
-	return api.Term{Op: op, N: n, Kids: kids}
-}
+// Short names.
+var (
+	node  = build.Node
+	v     = build.Var
+	num   = build.Num
+	con   = build.Con
+	fun   = build.Fun
+	part  = build.Part
+	terms = build.Terms
+)
 
 func bottom() api.Term { return node(api.TermBot, 0) }
-
-func v(n int) api.Term { return node(api.TermVar, n) }
-
-func num(n int) api.Term { return node(api.TermInt, n) }
-
-func con(n int, kids ...api.Term) api.Term { return node(api.TermCon, n, kids...) }
-
-func fun(n int, kids ...api.Term) api.Term { return node(api.TermFun, n, kids...) }
-
-func part(n int, kids ...api.Term) api.Term { return node(api.TermPart, n, kids...) }
 
 func truth(is bool) api.Term { return con(map[bool]int{false: 0, true: 1}[is]) }
 
@@ -90,8 +81,6 @@ func tower(n int, inside api.Term) api.Term {
 	}
 	return inside
 }
-
-func terms(list ...api.Term) []api.Term { return list }
 
 // step is a node of a proof.
 func step(r api.LogicRule, value api.Term, kids ...api.LogicProof) api.LogicProof {

@@ -7,6 +7,7 @@ import (
 	"testing"
 
 	"swingle/api"
+	"swingle/claims"
 	"swingle/read"
 )
 
@@ -178,60 +179,21 @@ func checkSource(t *testing.T, m api.ReadModule, source string) {
 	}
 }
 
-// memory has all parts of lists that were met.
-type memory struct {
-	*testing.T
-	met map[any]bool
-}
-
-func claim[T any](m memory, list []T) {
-	list = list[:cap(list)]
-	for i := range list {
-		if m.met[&list[i]] {
-			m.Fatal("memory is shared")
-		}
-		m.met[&list[i]] = true
-	}
-}
-
-func (m memory) terms(list []api.Term) {
-	claim(m, list)
-	for _, t := range list {
-		m.terms(t.Kids)
-	}
-}
-
-func (m memory) kinds(list []api.KindType) {
-	claim(m, list)
-	for _, t := range list {
-		m.kinds(t.Parts)
-	}
-}
-
-func (m memory) datas(list []api.KindData) {
-	claim(m, list)
-	for _, d := range list {
-		claim(m, d.Cons)
+func claimModule(m claims.Memory, x api.ReadModule) {
+	claims.List(m, x.Datas)
+	for _, d := range x.Datas {
+		claims.List(m, d.Cons)
 		for _, types := range d.Cons {
-			m.kinds(types)
+			m.Types(types)
 		}
 	}
-}
-
-func (m memory) program(p api.RuleProg) {
-	claim(m, p.Sig.Cons)
-	claim(m, p.Sig.Funs)
-	claim(m, p.Rules)
-	for _, r := range p.Rules {
-		m.terms(r.Pats)
-		m.terms([]api.Term{r.Rhs})
-	}
+	m.Program(x.Prog)
 }
 
 // R4: no argument is changed, and results share no memory with arguments, or with each other.
 func TestMemory(t *testing.T) {
 	r := rand.New(rand.NewSource(7))
-	mem := memory{t, map[any]bool{}}
+	mem := claims.New(t.Fatal)
 	for range 50 {
 		m := randomModule(r)
 		before := showModule(m)
@@ -242,16 +204,14 @@ func TestMemory(t *testing.T) {
 			t.Fatal(e, f, g, showModule(m), before)
 		}
 		for _, x := range []api.ReadModule{m, normal, again} {
-			mem.datas(x.Datas)
-			mem.program(x.Prog)
+			claimModule(mem, x)
 		}
 		if len(text) > api.ReadLong {
 			continue
 		}
 		for range 2 {
 			x := mustModule(t, text)
-			mem.datas(x.Datas)
-			mem.program(x.Prog)
+			claimModule(mem, x)
 		}
 	}
 	m := listsModule(t)
@@ -264,14 +224,13 @@ func TestMemory(t *testing.T) {
 		if e != api.OK || f != api.OK || g != api.OK || h != api.OK {
 			t.Fatal(e, f, g, h)
 		}
-		mem.terms([]api.Term{goal})
-		mem.kinds([]api.KindType{kind})
-		claim(mem, names)
-		claim(mem, spots)
-		claim(mem, list)
+		mem.Terms(goal.Kids)
+		mem.Types(kind.Parts)
+		claims.List(mem, names)
+		claims.List(mem, spots)
+		claims.List(mem, list)
 	}
-	mem.datas(m.Datas)
-	mem.program(m.Prog)
+	claimModule(mem, m)
 	if showModule(m) != before {
 		t.Error(showModule(m))
 	}

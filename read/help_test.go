@@ -8,6 +8,7 @@ import (
 	"testing"
 
 	"swingle/api"
+	"swingle/build"
 	"swingle/read"
 	"swingle/term"
 )
@@ -33,31 +34,19 @@ func mustModule(t *testing.T, source string) api.ReadModule {
 // listsModule is the module of the source lists.
 func listsModule(t *testing.T) api.ReadModule { return mustModule(t, lists) }
 
-func node(op api.TermOp, n int, kids ...api.Term) api.Term {
-	return api.Term{Op: op, N: n, Kids: kids}
-}
-
-func v(n int) api.Term { return node(api.TermVar, n) }
-
-func num(n int) api.Term { return node(api.TermInt, n) }
-
-func con(n int, kids ...api.Term) api.Term { return node(api.TermCon, n, kids...) }
-
-func or(a, b api.Term) api.Term { return node(api.TermOr, 0, a, b) }
-
-func let(n int, a, b api.Term) api.Term { return node(api.TermLet, n, a, b) }
-
-func typeVar(n int) api.KindType { return api.KindType{Sort: api.KindVar, N: n} }
-
-func integers() api.KindType { return api.KindType{Sort: api.KindInt} }
-
-func arrow(a, b api.KindType) api.KindType {
-	return api.KindType{Sort: api.KindFun, Parts: []api.KindType{a, b}}
-}
-
-func ofData(n int, parts ...api.KindType) api.KindType {
-	return api.KindType{Sort: api.KindOfData, N: n, Parts: parts}
-}
+// Short names.
+var (
+	node     = build.Node
+	v        = build.Var
+	num      = build.Num
+	con      = build.Con
+	or       = build.Or
+	let      = build.Let
+	typeVar  = build.TypeVar
+	integers = build.Integers
+	arrow    = build.Arrow
+	ofData   = build.OfData
+)
 
 // tower is so many brackets around a text: begin on its left, end on its right.
 func tower(high int, begin, text, end string) string {

@@ -7,7 +7,9 @@ import (
 	"testing"
 
 	"swingle/api"
+	"swingle/claims"
 	"swingle/rule"
+	"swingle/sample"
 )
 
 // asked is what all functions are called with.
@@ -163,7 +165,7 @@ func TestRefused(t *testing.T) {
 
 // ErrArg comes before the other errors.
 func TestWhichError(t *testing.T) {
-	long := wide(ruleOf(0, thicket(9), thicket(9), thicket(9), thicket(9)))
+	long := sample.Wide(sample.Rule(0, sample.Thicket(9), sample.Thicket(9), sample.Thicket(9), sample.Thicket(9)))
 	if _, e := rule.Tree(long, 0); e != api.ErrLong {
 		t.Error(e)
 	}
@@ -183,7 +185,7 @@ func TestWhichError(t *testing.T) {
 	if _, e := rule.Missing(p, 0, append(right, nil)); e != api.ErrArg {
 		t.Error(e)
 	}
-	add := progOf(t, examples)
+	add := progOf(t, sample.Rules)
 	if _, e := rule.Apply(add, 0, terms(con(3, con(2)), v(20))); e != api.ErrArg {
 		t.Error(e)
 	}
@@ -194,7 +196,7 @@ func TestWhichError(t *testing.T) {
 
 // P5.1: what is formed at the limits.
 func TestFormed(t *testing.T) {
-	p := wide()
+	p := sample.Wide()
 	for range 16 {
 		p.Rules = append(p.Rules, api.RuleRule{Fun: 1, Pats: terms(tower(11, 4, v(19))), Rhs: let(0, v(18), or(v(0), v(19))), Vars: 20})
 	}
@@ -295,36 +297,13 @@ func TestAnything(t *testing.T) {
 	}
 }
 
-// memory has all parts of lists that were met.
-type memory struct {
-	*testing.T
-	met map[any]bool
-}
-
-func claim[T any](m memory, list []T) {
-	list = list[:cap(list)]
-	for i := range list {
-		if m.met[&list[i]] {
-			m.Fatal("memory is shared")
-		}
-		m.met[&list[i]] = true
-	}
-}
-
-func (m memory) terms(list []api.Term) {
-	claim(m, list)
-	for _, x := range list {
-		m.terms(x.Kids)
-	}
-}
-
-func (m memory) trees(list []api.RuleNode) {
-	claim(m, list)
+func claimTrees(m claims.Memory, list []api.RuleNode) {
+	claims.List(m, list)
 	for _, n := range list {
-		claim(m, n.Rules)
-		claim(m, n.Path)
-		claim(m, n.Cons)
-		m.trees(n.Kids)
+		claims.List(m, n.Rules)
+		claims.List(m, n.Path)
+		claims.List(m, n.Cons)
+		claimTrees(m, n.Kids)
 	}
 }
 
@@ -353,33 +332,33 @@ func TestMemory(t *testing.T) {
 	a := anything{newMaker(t, 7)}
 	for range 500 {
 		x := a.random()
-		mem := memory{t, map[any]bool{}}
+		mem := claims.New(t.Fatal)
 		x.args = freshTerms(x.args)
-		mem.terms(x.args)
+		mem.Terms(x.args)
 		for n := range x.p.Rules {
 			x.p.Rules[n].Pats = freshTerms(x.p.Rules[n].Pats)
-			mem.terms(x.p.Rules[n].Pats)
+			mem.Terms(x.p.Rules[n].Pats)
 		}
 		for _, group := range x.groups {
-			claim(mem, group)
+			claims.List(mem, group)
 		}
 		before := x.text()
 		for range 2 {
 			rules, _ := rule.Rules(x.p, x.fun)
-			claim(mem, rules)
+			claims.List(mem, rules)
 			free, _ := rule.Free(x.p, x.rule)
-			claim(mem, free)
+			claims.List(mem, free)
 			top, _ := rule.Tree(x.p, x.fun)
-			mem.trees([]api.RuleNode{top})
+			claimTrees(mem, []api.RuleNode{top})
 			matching, _ := rule.Matches(x.p, x.fun, x.args)
-			claim(mem, matching)
+			claims.List(mem, matching)
 			shape, _ := rule.Missing(x.p, x.fun, x.groups)
-			mem.terms(shape)
+			mem.Terms(shape)
 			for n := range x.p.Rules {
 				binds, _ := rule.Apply(x.p, n, x.args)
-				claim(mem, binds)
+				claims.List(mem, binds)
 				for _, b := range binds {
-					mem.terms(b.Term.Kids)
+					mem.Terms(b.Term.Kids)
 				}
 			}
 		}

@@ -7,19 +7,18 @@ import (
 	"testing"
 
 	"swingle/api"
+	"swingle/build"
 	"swingle/read"
+	"swingle/sample"
 )
 
-// datas have the constructors False, True, Z 2, S 3, Nil 4, Cons 5 and Tri 6.
-const datas = "data Nat = Z | S(Nat); data List = Nil | Cons(Nat, List); data Tri = Tri(Nat, Nat, Nat);"
-
-// groups are those of the datas.
+// groups are those of sample.Datas.
 func groups() [][]int { return [][]int{{0, 1}, {2, 3}, {4, 5}, {6}} }
 
-// progOf reads rules with the constructors of datas.
+// progOf reads rules with the constructors of sample.Datas.
 func progOf(t *testing.T, rules string) api.RuleProg {
 	t.Helper()
-	m, e := read.Module(datas + rules)
+	m, e := read.Module(sample.Datas + rules)
 	if e != api.OK {
 		t.Fatal(e, rules)
 	}
@@ -40,21 +39,17 @@ func valuesOf(t *testing.T, p api.RuleProg, sources ...string) []api.Term {
 	return list
 }
 
-func node(op api.TermOp, n int, kids ...api.Term) api.Term {
-	return api.Term{Op: op, N: n, Kids: kids}
-}
-
-func v(n int) api.Term { return node(api.TermVar, n) }
-
-func num(n int) api.Term { return node(api.TermInt, n) }
-
-func con(n int, kids ...api.Term) api.Term { return node(api.TermCon, n, kids...) }
-
-func let(n int, a, b api.Term) api.Term { return node(api.TermLet, n, a, b) }
-
-func or(a, b api.Term) api.Term { return node(api.TermOr, 0, a, b) }
-
-func terms(list ...api.Term) []api.Term { return list }
+// Short names.
+var (
+	node  = build.Node
+	v     = build.Var
+	num   = build.Num
+	con   = build.Con
+	let   = build.Let
+	or    = build.Or
+	terms = build.Terms
+	tower = build.Tower
+)
 
 // many is so many equal terms, which share nothing.
 func many(n int, one func() api.Term) []api.Term {
@@ -63,39 +58,6 @@ func many(n int, one func() api.Term) []api.Term {
 		list = append(list, one())
 	}
 	return list
-}
-
-// tower is so many constructors with one argument around a term.
-func tower(n, con int, inside api.Term) api.Term {
-	for range n {
-		inside = node(api.TermCon, con, inside)
-	}
-	return inside
-}
-
-// numbered returns patterns whose variables are numbered from 0 on as they come, and how many there are.
-func numbered(pats []api.Term) ([]api.Term, int) {
-	next := 0
-	var number func(list []api.Term) []api.Term
-	number = func(list []api.Term) []api.Term {
-		var made []api.Term
-		for _, x := range list {
-			x.Kids = number(x.Kids)
-			if x.Op == api.TermVar {
-				x.N = next
-				next++
-			}
-			made = append(made, x)
-		}
-		return made
-	}
-	return number(pats), next
-}
-
-// ruleOf is a rule whose variables are numbered as they come, and which is 1.
-func ruleOf(fun int, pats ...api.Term) api.RuleRule {
-	pats, vars := numbered(pats)
-	return api.RuleRule{Fun: fun, Pats: pats, Rhs: num(1), Vars: vars}
 }
 
 func showNumbers(list []int) string {

@@ -5,6 +5,7 @@ import (
 
 	"swingle/api"
 	"swingle/rule"
+	"swingle/sample"
 )
 
 func checkMissing(t *testing.T, p api.RuleProg, fun int, groups [][]int, want string, why api.Errno) {
@@ -17,7 +18,7 @@ func checkMissing(t *testing.T, p api.RuleProg, fun int, groups [][]int, want st
 
 // P5.4: the examples.
 func TestMissingExamples(t *testing.T) {
-	p := progOf(t, examples)
+	p := progOf(t, sample.Rules)
 	for fun := range 4 {
 		checkMissing(t, p, fun, groups(), "", api.ErrNone)
 	}
@@ -81,7 +82,7 @@ func TestMissing(t *testing.T) {
 		}
 		checkMissing(t, progOf(t, x.rules), 0, groups(), x.want, want)
 	}
-	p := progOf(t, examples)
+	p := progOf(t, sample.Rules)
 	p.Sig.Funs = append(p.Sig.Funs, api.TermName{Name: "none"}, api.TermName{Name: "three", Args: 3})
 	checkMissing(t, p, 4, groups(), "", api.OK)
 	checkMissing(t, p, 5, groups(), "v0, v1, v2", api.OK)
@@ -108,17 +109,17 @@ func TestMissingNotFormed(t *testing.T) {
 		want   string
 		why    api.Errno
 	}{
-		{wide(ruleOf(1, tower(10, 4, one))), 1, deeper, "S(S(S(S(S(S(S(S(S(S(S(v0)))))))))))", api.OK},
-		{wide(ruleOf(1, tower(11, 4, one))), 1, deeper, "", api.ErrLong},
-		{wide(ruleOf(1, tower(11, 4, one))), 1, last, "S(S(S(S(S(S(S(S(S(S(S(True)))))))))))", api.OK},
-		{wide(ruleOf(1, tower(11, 4, v(0)))), 1, deeper, "S(S(S(S(S(S(S(S(S(S(Z))))))))))", api.OK},
-		{wide(ruleOf(0, seven(), seven(), five, v(0))), 0, last, "Q(Q(v0, v1, v2, v3), v4, v5, v6), Q(Q(v7, v8, v9, v10), v11, v12, v13), Q(Q(v14, v15, v16, Z), v17, v18, True), v19", api.OK},
-		{wide(ruleOf(0, seven(), seven(), five, v(0))), 0, first, "", api.ErrLong},
+		{sample.Wide(sample.Rule(1, tower(10, 4, one))), 1, deeper, "S(S(S(S(S(S(S(S(S(S(S(v0)))))))))))", api.OK},
+		{sample.Wide(sample.Rule(1, tower(11, 4, one))), 1, deeper, "", api.ErrLong},
+		{sample.Wide(sample.Rule(1, tower(11, 4, one))), 1, last, "S(S(S(S(S(S(S(S(S(S(S(True)))))))))))", api.OK},
+		{sample.Wide(sample.Rule(1, tower(11, 4, v(0)))), 1, deeper, "S(S(S(S(S(S(S(S(S(S(Z))))))))))", api.OK},
+		{sample.Wide(sample.Rule(0, seven(), seven(), five, v(0))), 0, last, "Q(Q(v0, v1, v2, v3), v4, v5, v6), Q(Q(v7, v8, v9, v10), v11, v12, v13), Q(Q(v14, v15, v16, Z), v17, v18, True), v19", api.OK},
+		{sample.Wide(sample.Rule(0, seven(), seven(), five, v(0))), 0, first, "", api.ErrLong},
 		// Here a shape with 22 variables is looked at before.
-		{wide(ruleOf(1, nested)), 1, last, "Q(Q(Q(Q(Q(Q(Q(Z, Z, Z, Z), Z, Z, Z), Z, Z, Z), Z, Z, Z), Z, Z, Z), Z, Z, Z), Z, Z, True)", api.OK},
-		{wide(ruleOf(1, nested)), 1, first, "", api.ErrLong},
-		{wide(ruleOf(1, tower(3, 4, thicket(8)))), 1, larger, "S(S(S(Q(Z, Q(Z, Q(Z, Q(Z, Q(Z, Q(Z, Q(Z, Q(Z, Z, Z, Z), Z, Z), Z, Z), Z, Z), Z, Z), Z, Z), Z, Z), Z, R(v0, v1, v2, v3)))))", api.OK},
-		{wide(ruleOf(1, thicket(9))), 1, larger, "", api.ErrLong},
+		{sample.Wide(sample.Rule(1, nested)), 1, last, "Q(Q(Q(Q(Q(Q(Q(Z, Z, Z, Z), Z, Z, Z), Z, Z, Z), Z, Z, Z), Z, Z, Z), Z, Z, Z), Z, Z, True)", api.OK},
+		{sample.Wide(sample.Rule(1, nested)), 1, first, "", api.ErrLong},
+		{sample.Wide(sample.Rule(1, tower(3, 4, sample.Thicket(8)))), 1, larger, "S(S(S(Q(Z, Q(Z, Q(Z, Q(Z, Q(Z, Q(Z, Q(Z, Q(Z, Z, Z, Z), Z, Z), Z, Z), Z, Z), Z, Z), Z, Z), Z, Z), Z, R(v0, v1, v2, v3)))))", api.OK},
+		{sample.Wide(sample.Rule(1, sample.Thicket(9))), 1, larger, "", api.ErrLong},
 	} {
 		list, e := rule.Missing(x.p, x.fun, x.groups)
 		if got := showArgs(x.p.Sig, list); e != x.why || got != x.want {
@@ -133,11 +134,11 @@ func manyLooks(last ...api.Term) api.RuleProg {
 		{Name: "False"}, {Name: "True"}, {Name: "Left"}, {Name: "Right"},
 		{Name: "A"}, {Name: "B"}, {Name: "C"}, {Name: "D"}, {Name: "E"}, {Name: "F"}, {Name: "S", Args: 1}, {Name: "Two", Args: 2},
 	}, Funs: []api.TermName{{Name: "f", Args: 4}}}}
-	p.Rules = append(p.Rules, ruleOf(0, con(2), con(4), con(4), con(4)), ruleOf(0, con(2), v(0), con(4), con(4)))
+	p.Rules = append(p.Rules, sample.Rule(0, con(2), con(4), con(4), con(4)), sample.Rule(0, con(2), v(0), con(4), con(4)))
 	for c := range 6 {
-		p.Rules = append(p.Rules, ruleOf(0, con(2), v(0), v(0), con(4+c)))
+		p.Rules = append(p.Rules, sample.Rule(0, con(2), v(0), v(0), con(4+c)))
 	}
-	p.Rules = append(p.Rules, ruleOf(0, append(terms(con(3)), last...)...))
+	p.Rules = append(p.Rules, sample.Rule(0, append(terms(con(3)), last...)...))
 	return p
 }
 

@@ -7,9 +7,10 @@ import (
 
 	"swingle/api"
 	"swingle/rule"
+	"swingle/sample"
 )
 
-// maker makes random programs and values. Most have the types of datas: an
+// maker makes random programs and values. Most have the types of sample.Datas: an
 // argument's kind is the number of the group that its constructors are in.
 type maker struct {
 	*rand.Rand
@@ -72,7 +73,7 @@ func (m *maker) rule(fun int) api.RuleRule {
 	for _, kind := range m.kinds[fun] {
 		pats = append(pats, m.term(kind, 1+m.Intn(3), func() api.Term { return v(0) }))
 	}
-	return ruleOf(fun, pats...)
+	return sample.Rule(fun, pats...)
 }
 
 // prog makes rules of the function fun, and some others between them.
@@ -125,7 +126,7 @@ func (m *maker) args(fun int, ground bool) []api.Term {
 	return list
 }
 
-// someGroups are those of the datas in another order, or any.
+// someGroups are those of sample.Datas in another order, or any.
 func (m *maker) someGroups() [][]int {
 	var list [][]int
 	if m.wild {
@@ -348,7 +349,7 @@ func TestMissingReference(t *testing.T) {
 			if e != api.OK {
 				return
 			}
-			p.Rules = slices.Insert(p.Rules, m.Intn(len(p.Rules)+1), ruleOf(fun, list...))
+			p.Rules = slices.Insert(p.Rules, m.Intn(len(p.Rules)+1), sample.Rule(fun, list...))
 		}
 	})
 }
@@ -410,7 +411,7 @@ func TestMissingMeaning(t *testing.T) {
 		shape, e := rule.Missing(p, fun, groups)
 		for range m.Intn(16 - len(p.Rules)) {
 			if e == api.OK {
-				p.Rules = append(p.Rules, ruleOf(fun, shape...))
+				p.Rules = append(p.Rules, sample.Rule(fun, shape...))
 				shape, e = rule.Missing(p, fun, groups)
 			}
 		}

@@ -5,20 +5,8 @@ import (
 
 	"swingle/api"
 	"swingle/rule"
+	"swingle/sample"
 )
-
-// examples are the rules of the chapter's examples: add 0, or 1, coin 2, len 3.
-const examples = `
-add(Z, y) = y;
-add(S(x), y) = S(add(x, y));
-or(True, y) = True;
-or(x, True) = True;
-or(False, False) = False;
-coin = Z;
-coin = S(Z);
-len(Cons(x, l)) = S(len(l));
-len(z) = add(v, v);
-`
 
 func checkRules(t *testing.T, p api.RuleProg, fun int, want string) {
 	t.Helper()
@@ -38,7 +26,7 @@ func checkFree(t *testing.T, p api.RuleProg, n int, want string) {
 
 // P5.1: the rules of a function are in order, those of other functions between them.
 func TestRules(t *testing.T) {
-	p := progOf(t, examples)
+	p := progOf(t, sample.Rules)
 	if e := rule.Check(p); e != api.OK {
 		t.Error(e)
 	}
@@ -59,7 +47,7 @@ func TestRules(t *testing.T) {
 
 // P5.1: free variables are those of no pattern and no let, also if they stand nowhere.
 func TestFree(t *testing.T) {
-	p := progOf(t, examples)
+	p := progOf(t, sample.Rules)
 	for n, want := range []string{"", "", "", "", "", "", "", "", "1"} {
 		checkFree(t, p, n, want)
 	}
@@ -88,7 +76,7 @@ func checkMatches(t *testing.T, p api.RuleProg, fun int, want string, sources ..
 
 // P5.3
 func TestMatches(t *testing.T) {
-	p := progOf(t, examples)
+	p := progOf(t, sample.Rules)
 	checkMatches(t, p, 0, "0", "Z", "Nil")
 	checkMatches(t, p, 0, "1", "S(x)", "x")
 	checkMatches(t, p, 0, "", "x", "Z")
@@ -131,7 +119,7 @@ func checkApply(t *testing.T, p api.RuleProg, n int, want string, why api.Errno,
 
 // P5.3: what is put in is a binding list, without the free variables.
 func TestApply(t *testing.T) {
-	p := progOf(t, examples)
+	p := progOf(t, sample.Rules)
 	checkApply(t, p, 1, "v0 = S(Z), v1 = Nil", api.OK, "S(S(Z))", "Nil")
 	checkApply(t, p, 1, "v0 = Z, v1 = Nil", api.OK, "S(Z)", "Nil")
 	checkApply(t, p, 1, "", api.ErrNone, "Z", "Nil")

@@ -5,6 +5,7 @@ import (
 
 	"swingle/api"
 	"swingle/rule"
+	"swingle/sample"
 )
 
 func checkTree(t *testing.T, p api.RuleProg, fun int, want string) {
@@ -29,7 +30,7 @@ func checkKinds(t *testing.T, p api.RuleProg, fun int, sequential, overlaps bool
 
 // P5.2: the examples.
 func TestTreeExamples(t *testing.T) {
-	p := progOf(t, examples)
+	p := progOf(t, sample.Rules)
 	checkTree(t, p, 0, "0 {Z: leaf 0; S: leaf 1}")
 	checkTree(t, p, 1, "or [0 {False: 1 {False: leaf 4}; True: leaf 2}; 1 {True: leaf 3}]")
 	checkTree(t, p, 2, "leaf 5 6")
@@ -77,7 +78,7 @@ func TestTree(t *testing.T) {
 
 // P5.2: a function without rules has a fail, is sequential, and does not overlap.
 func TestFail(t *testing.T) {
-	p := progOf(t, examples)
+	p := progOf(t, sample.Rules)
 	p.Sig.Funs = append(p.Sig.Funs, api.TermName{Name: "none"}, api.TermName{Name: "three", Args: 3})
 	for _, fun := range []int{4, 5} {
 		checkTree(t, p, fun, "fail")
@@ -103,23 +104,6 @@ func TestKinds(t *testing.T) {
 	}
 }
 
-// wide has the constructors False, True, Z 2, Q 3 and R 5 with 4 arguments, and S 4 with one, and functions with 4 and 1.
-func wide(rules ...api.RuleRule) api.RuleProg {
-	return api.RuleProg{Sig: api.TermSig{
-		Cons: []api.TermName{{Name: "False"}, {Name: "True"}, {Name: "Z"}, {Name: "Q", Args: 4}, {Name: "S", Args: 1}, {Name: "R", Args: 4}},
-		Funs: []api.TermName{{Name: "f", Args: 4}, {Name: "g", Args: 1}},
-	}, Rules: rules}
-}
-
-// thicket is a pattern of 4 n + 1 constructors.
-func thicket(n int) api.Term {
-	pat := con(2)
-	for range n {
-		pat = con(3, con(2), pat, con(2), con(2))
-	}
-	return pat
-}
-
 // P5.2: a tree can have 80 nodes, and no more.
 func TestLongTree(t *testing.T) {
 	for _, x := range []struct {
@@ -127,19 +111,19 @@ func TestLongTree(t *testing.T) {
 		fun  int
 		want int // 0: too many
 	}{
-		{wide(ruleOf(0, thicket(9), thicket(9), con(2), v(0))), 0, 76},
-		{wide(ruleOf(0, thicket(9), thicket(9), tower(4, 4, con(2)), v(0))), 0, 80},
-		{wide(ruleOf(0, thicket(9), thicket(9), tower(4, 4, con(2)), con(2))), 0, 0},
-		{wide(ruleOf(0, thicket(9), thicket(9), tower(5, 4, con(2)), v(0))), 0, 0},
-		{wide(ruleOf(0, thicket(9), thicket(9), thicket(9), thicket(9))), 0, 0},
+		{sample.Wide(sample.Rule(0, sample.Thicket(9), sample.Thicket(9), con(2), v(0))), 0, 76},
+		{sample.Wide(sample.Rule(0, sample.Thicket(9), sample.Thicket(9), tower(4, 4, con(2)), v(0))), 0, 80},
+		{sample.Wide(sample.Rule(0, sample.Thicket(9), sample.Thicket(9), tower(4, 4, con(2)), con(2))), 0, 0},
+		{sample.Wide(sample.Rule(0, sample.Thicket(9), sample.Thicket(9), tower(5, 4, con(2)), v(0))), 0, 0},
+		{sample.Wide(sample.Rule(0, sample.Thicket(9), sample.Thicket(9), sample.Thicket(9), sample.Thicket(9))), 0, 0},
 		// With an or: its node, 37 + 1 and 40 + 1.
-		{wide(ruleOf(0, thicket(9), v(0), v(0), v(0)), ruleOf(0, v(0), thicket(9), tower(2, 4, con(2)), v(0))), 0, 80},
-		{wide(ruleOf(0, thicket(9), v(0), v(0), v(0)), ruleOf(0, v(0), thicket(9), tower(3, 4, con(2)), v(0))), 0, 0},
-		{wide(ruleOf(0, thicket(9), v(0), v(0), v(0)), ruleOf(0, v(0), thicket(9), tower(1, 4, con(2)), v(0)), ruleOf(0, v(0), v(0), v(0), v(0))), 0, 0},
-		{wide(ruleOf(0, thicket(9), v(0), v(0), v(0)), ruleOf(0, v(0), thicket(9), con(2), v(0)), ruleOf(0, v(0), v(0), v(0), v(0))), 0, 80},
+		{sample.Wide(sample.Rule(0, sample.Thicket(9), v(0), v(0), v(0)), sample.Rule(0, v(0), sample.Thicket(9), tower(2, 4, con(2)), v(0))), 0, 80},
+		{sample.Wide(sample.Rule(0, sample.Thicket(9), v(0), v(0), v(0)), sample.Rule(0, v(0), sample.Thicket(9), tower(3, 4, con(2)), v(0))), 0, 0},
+		{sample.Wide(sample.Rule(0, sample.Thicket(9), v(0), v(0), v(0)), sample.Rule(0, v(0), sample.Thicket(9), tower(1, 4, con(2)), v(0)), sample.Rule(0, v(0), v(0), v(0), v(0))), 0, 0},
+		{sample.Wide(sample.Rule(0, sample.Thicket(9), v(0), v(0), v(0)), sample.Rule(0, v(0), sample.Thicket(9), con(2), v(0)), sample.Rule(0, v(0), v(0), v(0), v(0))), 0, 80},
 		// The rules of another function do not count.
-		{wide(ruleOf(0, thicket(9), thicket(9), tower(4, 4, con(2)), v(0)), ruleOf(1, con(2))), 0, 80},
-		{wide(ruleOf(0, thicket(9), thicket(9), thicket(9), thicket(9)), ruleOf(1, con(2))), 1, 2},
+		{sample.Wide(sample.Rule(0, sample.Thicket(9), sample.Thicket(9), tower(4, 4, con(2)), v(0)), sample.Rule(1, con(2))), 0, 80},
+		{sample.Wide(sample.Rule(0, sample.Thicket(9), sample.Thicket(9), sample.Thicket(9), sample.Thicket(9)), sample.Rule(1, con(2))), 1, 2},
 	} {
 		n, e := rule.Tree(x.p, x.fun)
 		sequential, overlaps, f := rule.Kinds(x.p, x.fun)
@@ -158,7 +142,7 @@ func TestLongTree(t *testing.T) {
 
 // P5.2: positions of the greatest length, at the depth of 12.
 func TestDeepTree(t *testing.T) {
-	p := wide(ruleOf(1, tower(11, 4, con(2))), ruleOf(1, tower(11, 4, con(1))))
+	p := sample.Wide(sample.Rule(1, tower(11, 4, con(2))), sample.Rule(1, tower(11, 4, con(1))))
 	n, e := rule.Tree(p, 1)
 	for e == api.OK && n.Op == api.RuleBranch && len(n.Kids) == 1 {
 		n = n.Kids[0]

@@ -7,6 +7,7 @@ import (
 	"testing"
 
 	"swingle/api"
+	"swingle/build"
 	"swingle/term"
 )
 
@@ -18,13 +19,13 @@ func sig() api.TermSig {
 	}
 }
 
-func node(op api.TermOp, n int, kids ...api.Term) api.Term {
-	return api.Term{Op: op, N: n, Kids: kids}
-}
-
-func v(n int) api.Term { return node(api.TermVar, n) }
-
-func num(n int) api.Term { return node(api.TermInt, n) }
+// Short names.
+var (
+	node = build.Node
+	v    = build.Var
+	num  = build.Num
+	let  = build.Let
+)
 
 func z() api.Term { return node(api.TermCon, 2) }
 
@@ -35,8 +36,6 @@ func null() api.Term { return node(api.TermCon, 4) }
 func cons(a, b api.Term) api.Term { return node(api.TermCon, 5, a, b) }
 
 func four(a, b, c, d api.Term) api.Term { return node(api.TermCon, 6, a, b, c, d) }
-
-func let(n int, a, b api.Term) api.Term { return node(api.TermLet, n, a, b) }
 
 func part(kids ...api.Term) api.Term { return node(api.TermPart, 0, kids...) }
 
